@@ -865,16 +865,9 @@ func TestListsOfStepsAreNew(t *testing.T) {
 	}
 }
 
-// Nothing goes on behind a call.
-func TestMarchesAreOver(t *testing.T) {
-	before := runtime.NumGoroutine()
-	for range 100 {
-		for _, paces := range append(widePaces(), longPaces()...) {
-			impl.BeatsOf(paces, 0)
-			impl.BeatsOf(paces, 200)
-		}
-		answersOfPaces(pacesOf(2, 0, 3, 1))
-	}
+// checkOver checks that there are no more goroutines than before.
+func checkOver(t *testing.T, before int) {
+	t.Helper()
 	// One that has told that it is over may need a moment to be counted so.
 	for range 1000000 {
 		if runtime.NumGoroutine() <= before {
@@ -885,19 +878,12 @@ func TestMarchesAreOver(t *testing.T) {
 	t.Error("goroutines", before, runtime.NumGoroutine())
 }
 
-// The same calls at one time do not disturb each other.
-func TestMarchesAtOneTime(t *testing.T) {
+// checkAtOneTime checks that the same calls at one time, whose results a text tells, do not disturb each other.
+func checkAtOneTime(t *testing.T, resultsOfCalls func() string) {
+	t.Helper()
 	results := make(chan string)
 	for range 20 {
-		go func() {
-			text := ""
-			for _, paces := range widePaces() {
-				s, _ := impl.BeatsOf(paces, 200)
-				n, time, _ := impl.MostAtOnce(paces)
-				text += s + showList([]int{n, time})
-			}
-			results <- text
-		}()
+		go func() { results <- resultsOfCalls() }()
 	}
 	first := <-results
 	for range 19 {
@@ -905,6 +891,31 @@ func TestMarchesAtOneTime(t *testing.T) {
 			t.Error("not the same", next, first)
 		}
 	}
+}
+
+// Nothing goes on behind a call.
+func TestMarchesAreOver(t *testing.T) {
+	before := runtime.NumGoroutine()
+	for range 100 {
+		for _, paces := range append(widePaces(), longPaces()...) {
+			impl.BeatsOf(paces, 0)
+			impl.BeatsOf(paces, 200)
+		}
+		answersOfPaces(pacesOf(2, 0, 3, 1))
+	}
+	checkOver(t, before)
+}
+
+func TestMarchesAtOneTime(t *testing.T) {
+	checkAtOneTime(t, func() string {
+		text := ""
+		for _, paces := range widePaces() {
+			s, _ := impl.BeatsOf(paces, 200)
+			n, time, _ := impl.MostAtOnce(paces)
+			text += s + showList([]int{n, time})
+		}
+		return text
+	})
 }
 
 // Promise 11: numbers and texts of whatever size are accepted, in all orders.
